@@ -452,17 +452,15 @@ func TestEntryArgumentsStay(t *testing.T) {
 	}
 }
 
-// Results are new at each call: a caller may write into them.
-func TestEntryResultsAreNew(t *testing.T) {
-	list := fieldOf(2, 3, 1)
-	list[2].Club = 0
-	calls := []struct {
-		call func() []int
-		want []int
-	}{
-		{func() []int { return impl.SeedOrder(list) }, []int{2, 0, 1}},
-		{func() []int { return impl.OfClub(list, 0) }, []int{0, 2}},
-	}
+// An indexCall is a call that returns a list of indices, and what it has to return.
+type indexCall struct {
+	call func() []int
+	want []int
+}
+
+// checkNewResults writes into a result of each call and behind it, which no other result may show.
+func checkNewResults(t *testing.T, calls ...indexCall) {
+	t.Helper()
 	for i, c := range calls {
 		first := c.call()
 		other := c.call()
@@ -472,4 +470,14 @@ func TestEntryResultsAreNew(t *testing.T) {
 			t.Errorf("call %d after a change of its result = %v", i, c.call())
 		}
 	}
+}
+
+// Results are new at each call: a caller may write into them.
+func TestEntryResultsAreNew(t *testing.T) {
+	list := fieldOf(2, 3, 1)
+	list[2].Club = 0
+	checkNewResults(t,
+		indexCall{func() []int { return impl.SeedOrder(list) }, []int{2, 0, 1}},
+		indexCall{func() []int { return impl.OfClub(list, 0) }, []int{0, 2}},
+	)
 }
