@@ -458,17 +458,23 @@ type indexCall struct {
 	want []int
 }
 
-// checkNewResults writes into a result of each call and behind it, which no other result may show.
+// checkNewResults does what checkNewList does for each call.
 func checkNewResults(t *testing.T, calls ...indexCall) {
 	t.Helper()
-	for i, c := range calls {
-		first := c.call()
-		other := c.call()
-		clear(first)
-		_ = append(first, 77)
-		if !slices.Equal(other, c.want) || !slices.Equal(c.call(), c.want) {
-			t.Errorf("call %d after a change of its result = %v", i, c.call())
-		}
+	for _, c := range calls {
+		checkNewList(t, c.call, c.want, 77)
+	}
+}
+
+// checkNewList writes into a result of the call and behind it, which no other result may show.
+func checkNewList[T comparable](t *testing.T, call func() []T, want []T, written T) {
+	t.Helper()
+	first := call()
+	other := call()
+	clear(first)
+	_ = append(first, written)
+	if !slices.Equal(other, want) || !slices.Equal(call(), want) {
+		t.Errorf("after a change of its result, a call returns %v, want %v", call(), want)
 	}
 }
 
