@@ -654,7 +654,7 @@ func someLadders() [][]int {
 	}
 }
 
-// P3 and P9: all seasons of three teams, with and without deductions, by ladders of all kinds.
+// P3 and P9: three games of three teams, each with each kind of result, by ladders of all kinds, the deductions in turn.
 func TestRanksOfThreeTeams(t *testing.T) {
 	for i, games := range seasonsOver([]impl.Game{open(0, 1), open(1, 2), open(2, 0)}, 0, 1, 2, 3, 4, 5, 6) {
 		for k, ladder := range someLadders() {
@@ -669,7 +669,7 @@ func TestRanksOfThreeTeams(t *testing.T) {
 	}
 }
 
-// P3: all seasons of four teams with a home win, a draw or a home defeat by goals that differ.
+// P3: six games of four teams, each won at home, drawn or lost by goals that differ, by the usual rules and by a ladder in turn.
 func TestRanksOfFourTeams(t *testing.T) {
 	games := []impl.Game{open(0, 1), open(2, 3), open(0, 2), open(1, 3), open(3, 0), open(1, 2)}
 	for i, season := range seasonsOver(games, 3, 4, 6) {
